@@ -105,19 +105,19 @@ func opOf(op int) (opNode, bool) {
 	return opNode{}, false
 }
 
-// nodeOf returns the node at the top of e, and whether e has the fields of its
-// kind and no others.
-func nodeOf(e Expr) (node, bool) {
-	switch e.Op {
+// nodeOf returns the node with a kind, an N and a number of operands, and
+// whether these are the fields of its kind.
+func nodeOf(op int, n int, kids int) (node, bool) {
+	switch op {
 	case ExpVar:
-		return varNode(e.N), len(e.Kids) == 0
+		return varNode(n), kids == 0
 	case ExpNum:
-		return numNode(e.N), len(e.Kids) == 0
+		return numNode(n), kids == 0
 	case ExpGlobal:
-		return globalNode(e.N), len(e.Kids) == 0
+		return globalNode(n), kids == 0
 	}
-	o, ok := opOf(e.Op)
-	return o, ok && e.N == 0 && len(e.Kids) == o.kids
+	o, ok := opOf(op)
+	return o, ok && n == 0 && kids == o.kids
 }
 
 // ExprValid reports whether e is an expression with some variables and functions.
@@ -132,7 +132,7 @@ func ExprValid(e Expr, vars int, defs int) bool {
 // a negative number if e is not valid. The budget also ends the search in an
 // expression that shares its parts many times over, or that contains itself.
 func nodesLeft(e Expr, vars int, defs int, depth int, nodes int) int {
-	n, ok := nodeOf(e)
+	n, ok := nodeOf(e.Op, e.N, len(e.Kids))
 	if !ok || !n.fits(vars, defs) || depth == 0 || nodes == 0 {
 		return -1
 	}
@@ -205,7 +205,7 @@ func FormatExpr(e Expr) string {
 }
 
 func nodeText(e Expr, kids []string) string {
-	n, ok := nodeOf(e)
+	n, ok := nodeOf(e.Op, e.N, len(e.Kids))
 	if !ok {
 		return ""
 	}
