@@ -43,14 +43,23 @@ func copyBy(g []impl.Cell, roots []int) ([]impl.Cell, []int) {
 	return h, places(roots)
 }
 
+// endOfCell returns the cell for which a cell stands, or itself if it comes back to one before.
+func endOfCell(g []impl.Cell, at int) int {
+	before := map[int]bool{}
+	for to := at; !before[to]; to = g[to].Kids[0] {
+		if g[to].Op != impl.ExpInd {
+			return to
+		}
+		before[to] = true
+	}
+	return at
+}
+
 // directBy returns cells with those for which they stand in their place, if there are any.
 func directBy(g []impl.Cell, list []int) []int {
 	var ends []int
 	for _, at := range list {
-		if to, ok := impl.FollowInd(g, at); ok {
-			at = to
-		}
-		ends = append(ends, at)
+		ends = append(ends, endOfCell(g, at))
 	}
 	return ends
 }
