@@ -86,8 +86,14 @@ func isExprText(text string) bool {
 		}
 	}
 	text = goodLetter.ReplaceAllString(digitRuns.ReplaceAllString(text, "#"), "#")
+	return isRewritten(text, goodFormula)
+}
+
+// isRewritten reports whether a text is "#" in the end if all that matches a
+// pattern is replaced by this, as often as there is something.
+func isRewritten(text string, pattern *regexp.Regexp) bool {
 	for {
-		next := goodFormula.ReplaceAllString(text, "#")
+		next := pattern.ReplaceAllString(text, "#")
 		if next == text {
 			return text == "#"
 		}
@@ -134,14 +140,7 @@ func TestChangedTexts(t *testing.T) {
 	for range 1500 {
 		text := impl.FormatExpr(randomExpr(r, allVars, allDefs, 4))
 		for range 20 {
-			at := r.Intn(len(text) + 1)
-			c := string(alphabet[r.Intn(len(alphabet))])
-			changed := text[:at] + c + text[at:]
-			if at < len(text) && r.Intn(3) > 0 {
-				changed = text[:at] + c + text[at+1:]
-			} else if at < len(text) && r.Intn(2) > 0 {
-				changed = text[:at] + text[at+1:]
-			}
+			changed := changedText(r, text, alphabet)
 			want := isExprText(changed)
 			if want {
 				accepted++
@@ -152,6 +151,19 @@ func TestChangedTexts(t *testing.T) {
 	if accepted == 0 {
 		t.Error("no changed text is that of an expression")
 	}
+}
+
+// changedText returns a text with a byte that is new, another one or missing.
+func changedText(r *rand.Rand, text string, alphabet string) string {
+	at := r.Intn(len(text) + 1)
+	c := string(alphabet[r.Intn(len(alphabet))])
+	if at < len(text) && r.Intn(3) > 0 {
+		return text[:at] + c + text[at+1:]
+	}
+	if at < len(text) && r.Intn(2) > 0 {
+		return text[:at] + text[at+1:]
+	}
+	return text[:at] + c + text[at:]
 }
 
 func TestRandomExprsAreReadBack(t *testing.T) {

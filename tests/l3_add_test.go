@@ -209,50 +209,69 @@ func TestRandomAdds(t *testing.T) {
 	}
 }
 
-func TestAddExprSharesNoMemory(t *testing.T) {
-	const text, added = "num 1;pair #0 #0;ind #1;", "num 5;pair #1 #3;add #4 #3;"
+// adder adds the cells of some expression to a graph.
+type adder func(g []impl.Cell, args []int) ([]impl.Cell, int, bool)
+
+// checkAdderSharesNoMemory checks the results of an adder of (<a,5>+5).
+func checkAdderSharesNoMemory(t *testing.T, add adder) {
+	t.Helper()
+	const text, want = "num 1;pair #0 #0;ind #1;", "num 1;pair #0 #0;ind #1;num 5;pair #1 #3;num 5;add #4 #5;"
 	room := append(graphOf(t, text), cell(33, 1))
 	g := room[:3]
 	kids := []int{0, 0, 55}
 	g[1].Kids = kids[:2]
 	args := []int{1, 3, 66}
-	e := mustExpr(t, "(<a,5>+5)")
-	h, root, ok := impl.AddExpr(g, e, args[:1], 0)
-	const want = text + "num 5;pair #1 #3;num 5;add #4 #5;"
+	h, root, ok := add(g, args[:1])
 	if !ok || root != 6 || !equalGraphs(h, graphOf(t, want)) {
-		t.Fatalf("AddExpr = %v, %d, %v", h, root, ok)
+		t.Fatalf("the cells with those that are added are %v, %d, %v", h, root, ok)
 	}
-	again, _, _ := impl.AddExpr(g, e, args[:1], 0)
+	again, _, _ := add(g, args[:1])
 	for i := range h {
-		_ = append(h[i].Kids, 44)
+		_ = append(h[i].Kids, 44, 44)
 		if !equalGraphs(h, graphOf(t, want)) {
 			t.Errorf("the cell %d shares unused memory with others", i)
 		}
 	}
 	spoilGraph(h)
-	if !equalGraphs(g, graphOf(t, text)) || room[3].Op != 33 || kids[2] != 55 || !equal(e, mustExpr(t, "(<a,5>+5)")) {
-		t.Error("a result of AddExpr shares memory with an argument")
+	if !equalGraphs(g, graphOf(t, text)) || room[3].Op != 33 || kids[2] != 55 {
+		t.Error("a result shares memory with an argument")
 	}
 	checkInts(t, args, []int{1, 3, 66})
 	spoilGraph(g)
-	spoil(e)
 	args[0] = 2
 	if !equalGraphs(again, graphOf(t, want)) {
-		t.Error("a result of AddExpr shares memory with an argument or another result")
+		t.Error("a result shares memory with an argument or another result")
 	}
 }
 
-func TestAddExprOfVariableSharesNoMemory(t *testing.T) {
+// checkNoneAddedSharesNoMemory checks the results of an adder of a variable.
+func checkNoneAddedSharesNoMemory(t *testing.T, add adder) {
+	t.Helper()
 	const text = "num 1;pair #0 #0;ind #1;"
 	g := graphOf(t, text)
-	h, _, _ := impl.AddExpr(g, variable(0), []int{1}, 0)
-	other, _, _ := impl.AddExpr(g, variable(0), []int{1}, 0)
+	h, root, ok := add(g, []int{1})
+	other, _, _ := add(g, []int{1})
+	if !ok || root != 1 || !equalGraphs(h, graphOf(t, text)) {
+		t.Fatalf("the cells without new ones are %v, %d, %v", h, root, ok)
+	}
 	spoilGraph(h)
 	if !equalGraphs(g, graphOf(t, text)) || !equalGraphs(other, graphOf(t, text)) {
-		t.Error("a result of AddExpr without new cells shares memory")
+		t.Error("a result without new cells shares memory")
 	}
 	spoilGraph(g)
 	if !equalGraphs(other, graphOf(t, text)) {
-		t.Error("AddExpr without new cells returns its argument")
+		t.Error("a graph without new cells is the argument")
 	}
+}
+
+func TestAddExprSharesNoMemory(t *testing.T) {
+	adderOf := func(e impl.Expr) adder {
+		return func(g []impl.Cell, args []int) ([]impl.Cell, int, bool) { return impl.AddExpr(g, e, args, 0) }
+	}
+	e := mustExpr(t, "(<a,5>+5)")
+	checkAdderSharesNoMemory(t, adderOf(e))
+	if !equal(e, mustExpr(t, "(<a,5>+5)")) {
+		t.Error("a result of AddExpr shares memory with its expression")
+	}
+	checkNoneAddedSharesNoMemory(t, adderOf(variable(0)))
 }
