@@ -362,6 +362,31 @@ func wrongPrograms() [][]impl.Def {
 	return list
 }
 
+// invalidEvaluations calls what with the arguments of many evaluations that are not valid.
+func invalidEvaluations(t *testing.T, what func(p []impl.Def, e impl.Expr, fuel int)) {
+	t.Helper()
+	p := mustProgram(t, "A2=a;B0=1;")
+	for _, fuel := range []int{-1, 0, 10, impl.MaxFuel, impl.MaxFuel + 1} {
+		for _, text := range []string{"a", "(a 1)", "<a,1>", "<1,b>", "[0?1:a]", "C", "F", "(A C)", "<1,C>", "((A 1) C)"} {
+			what(p, mustExpr(t, text), fuel)
+		}
+		for _, wrong := range tooLargeExprs() {
+			what(p, wrong, fuel)
+			what(p, node(impl.ExpPair, 0, number(1), wrong), fuel)
+		}
+		for _, wrong := range wrongPrograms() {
+			what(wrong, number(1), fuel)
+			what(wrong, mustExpr(t, "<1,<2,A>>"), fuel)
+		}
+		what(nil, global(0), fuel)
+	}
+	for _, fuel := range []int{-1, -2, -1 << 63, 301, 302, 1<<63 - 1} {
+		for _, text := range []string{"1", "<1,2>", "A", "((A 1) 2)", "(1 2)"} {
+			what(p, mustExpr(t, text), fuel)
+		}
+	}
+}
+
 // checkGraph checks the graph that a function returns.
 func checkGraph(t *testing.T, what string, got []impl.Cell, want []impl.Cell) {
 	t.Helper()

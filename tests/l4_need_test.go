@@ -301,26 +301,8 @@ func checkNoNeed(t *testing.T, p []impl.Def, e impl.Expr, fuel int) {
 }
 
 func TestInvalidNeeds(t *testing.T) {
+	invalidEvaluations(t, func(p []impl.Def, e impl.Expr, fuel int) { checkNoNeed(t, p, e, fuel) })
 	p := mustProgram(t, "A2=a;B0=1;")
-	for _, fuel := range []int{-1, 0, 10, impl.MaxFuel, impl.MaxFuel + 1} {
-		for _, text := range []string{"a", "(a 1)", "<a,1>", "<1,b>", "[0?1:a]", "C", "F", "(A C)", "<1,C>", "((A 1) C)"} {
-			checkNoNeed(t, p, mustExpr(t, text), fuel)
-		}
-		for _, wrong := range tooLargeExprs() {
-			checkNoNeed(t, p, wrong, fuel)
-			checkNoNeed(t, p, node(impl.ExpPair, 0, number(1), wrong), fuel)
-		}
-		for _, wrong := range wrongPrograms() {
-			checkNoNeed(t, wrong, number(1), fuel)
-			checkNoNeed(t, wrong, mustExpr(t, "<1,<2,A>>"), fuel)
-		}
-		checkNoNeed(t, nil, global(0), fuel)
-	}
-	for _, fuel := range []int{-1, -2, -1 << 63, 301, 302, 1<<63 - 1} {
-		for _, text := range []string{"1", "<1,2>", "A", "((A 1) 2)", "(1 2)"} {
-			checkNoNeed(t, p, mustExpr(t, text), fuel)
-		}
-	}
 	for _, many := range []int{-1, 11, 12, -1 << 63, 1<<63 - 1} {
 		for _, text := range []string{"1", "<1,<2,3>>", "(1 2)", "B"} {
 			if list, code := impl.ForceNumbers(p, mustExpr(t, text), many, 10); len(list) != 0 || code != impl.EvalInvalid {

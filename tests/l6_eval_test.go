@@ -205,27 +205,12 @@ func checkNoPeak(t *testing.T, p []impl.Def, e impl.Expr, fuel int) {
 }
 
 func TestInvalidRuns(t *testing.T) {
+	invalidEvaluations(t, func(p []impl.Def, e impl.Expr, fuel int) {
+		checkNoRuns(t, p, e, fuel, 100)
+		checkNoPeak(t, p, e, fuel)
+	})
 	p := mustProgram(t, "A2=a;B0=1;")
-	for _, fuel := range []int{-1, 0, 10, impl.MaxFuel, impl.MaxFuel + 1} {
-		for _, text := range []string{"a", "(a 1)", "<a,1>", "[0?1:a]", "C", "F", "(A C)", "((A 1) C)"} {
-			checkNoRuns(t, p, mustExpr(t, text), fuel, 100)
-			checkNoPeak(t, p, mustExpr(t, text), fuel)
-		}
-		for _, wrong := range tooLargeExprs() {
-			checkNoRuns(t, p, wrong, fuel, 100)
-			checkNoPeak(t, p, wrong, fuel)
-		}
-		for _, wrong := range wrongPrograms() {
-			checkNoRuns(t, wrong, number(1), fuel, 100)
-			checkNoPeak(t, wrong, number(1), fuel)
-		}
-		checkNoRuns(t, nil, global(0), fuel, 100)
-	}
 	for _, text := range []string{"1", "<1,2>", "A", "((A 1) 2)", "(1 2)"} {
-		for _, fuel := range []int{-1 << 63, -1, impl.MaxFuel + 1, 1<<63 - 1} {
-			checkNoRuns(t, p, mustExpr(t, text), fuel, 100)
-			checkNoPeak(t, p, mustExpr(t, text), fuel)
-		}
 		for _, limit := range []int{-1 << 63, -1, impl.MaxCells + 1, 1<<63 - 1} {
 			checkNoRuns(t, p, mustExpr(t, text), 10, limit)
 		}
