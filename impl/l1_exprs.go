@@ -431,9 +431,14 @@ func VarsUsed(e Expr, vars int) []int {
 	return used
 }
 
+// tree is a node with other ones of its type as operands.
+type tree[T any] interface{ operands() []T }
+
+func (e Expr) operands() []Expr { return e.Kids }
+
 // visit is a node whose operands up to next are counted, with the sum so far.
-type visit struct {
-	at   *Expr
+type visit[T tree[T]] struct {
+	at   *T
 	next int
 	sum  int
 }
@@ -441,19 +446,20 @@ type visit struct {
 // countNodes returns how many nodes of e are wanted. It visits each part once
 // and without recursion, for the same reasons as ExprSame. There is no number
 // if e contains itself, or if an int is too small for it; the result is 0 then.
-func countNodes(e Expr, want func(Expr) bool) int {
+func countNodes[T tree[T]](e T, want func(T) bool) int {
 	const unfinished = -1
-	begin := func(x *Expr) visit {
+	begin := func(x *T) visit[T] {
 		if want(*x) {
-			return visit{at: x, sum: 1}
+			return visit[T]{at: x, sum: 1}
 		}
-		return visit{at: x}
+		return visit[T]{at: x}
 	}
-	counts := map[*Expr]int{}
-	path := []visit{begin(&e)}
+	counts := map[*T]int{}
+	path := []visit[T]{begin(&e)}
 	for {
 		top := &path[len(path)-1]
-		if top.next == len(top.at.Kids) {
+		kids := (*top.at).operands()
+		if top.next == len(kids) {
 			if len(path) == 1 {
 				return top.sum
 			}
@@ -461,7 +467,7 @@ func countNodes(e Expr, want func(Expr) bool) int {
 			path = path[:len(path)-1]
 			continue
 		}
-		kid := &top.at.Kids[top.next]
+		kid := &kids[top.next]
 		n, seen := counts[kid]
 		if !seen {
 			counts[kid] = unfinished
